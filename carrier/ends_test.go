@@ -201,7 +201,28 @@ func TestMore(t *testing.T) {
 	}
 }
 
-// The chapter's examples.
+// The chapter's examples: works, and what flows there.
+func TestExamplesOfFlows(t *testing.T) {
+	w := meadow()
+	through := flow(t, w, now())
+	tails, _ := carrier.Tails(w, now())
+	lost, _ := carrier.Lost(w, now())
+	if !slices.Equal(through, []int{45, 31, 20, 22}) || !slices.Equal(tails, []int{12, 0}) || lost != 15 {
+		t.Error(through, tails, lost)
+	}
+	path, _ := carrier.Path(w, 4)
+	below, _ := carrier.Below(w, 1)
+	if !slices.Equal(path, []int{1, 4}) || !slices.Equal(below, []int{3, 4}) {
+		t.Error(path, below)
+	}
+	alone := api.Works{Carriers: meadow().Carriers[:1]}
+	outlet(&alone, 1).Into = -1
+	if x, _ := carrier.Without(w, 1); !sameWorks(x, alone) {
+		t.Error(x)
+	}
+}
+
+// The chapter's examples: signs, ends, wishes and courses.
 func TestExamples(t *testing.T) {
 	w, c := meadow(), known()
 	a, b, d, _ := carrier.Signs(w, 4)
@@ -220,6 +241,11 @@ func TestExamples(t *testing.T) {
 	two, _ := carrier.Rests(w, c, 2)
 	if !slices.Equal(four, []int{1, 3, 4}) || len(two) > 0 {
 		t.Error(four, two)
+	}
+	board, e := carrier.Open(w, now(), 4, 21)
+	none, f := carrier.Open(w, now(), 3, 45)
+	if board != 1 || e != api.OK || none != 0 || f != api.ErrNone {
+		t.Error(board, none, e, f)
 	}
 	n, _ := carrier.Send(w, now(), 4, 22)
 	l, _ := carrier.Drunk(w, []api.Run{{Minutes: 60, Water: now()}})
