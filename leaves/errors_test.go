@@ -172,7 +172,7 @@ func TestLastErrors(t *testing.T) {
 		{"Spare", func(q *question) { q.l = nil }, api.ErrNone},
 		{"Spare", func(q *question) { q.l[1].Words[0]++ }, api.ErrClash},
 		{"CheckMend", func(q *question) { q.l[2].Words[7]++ }, api.ErrProof},
-		{"CheckMend", func(q *question) { q.m = api.Mended{} }, api.ErrProof},
+		{"CheckMend", func(q *question) { q.m.Wrong = []int{1} }, api.ErrProof},
 		{"Join", func(q *question) { q.copies = slices.Repeat(q.copies, 3) }, api.ErrLimit},
 		{"Join", func(q *question) { q.copies[1][0].Number = 5 }, api.ErrArg},
 		{"Write", func(q *question) { q.s.Width = 7 }, api.ErrLimit},

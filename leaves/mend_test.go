@@ -21,9 +21,9 @@ func mends(t *testing.T, s api.Shape, l []api.Leaf, m api.Mended, e api.Errno) {
 	if got, f := leaves.Spare(s, l); got != n || f != e {
 		t.Fatal("Spare", s, l, got, f, n, e)
 	}
-	proof := api.ErrProof
-	if e == api.OK {
-		proof = api.OK
+	proof := api.OK
+	if e != api.OK { // no data are right
+		m, proof = api.Mended{Data: laid(s)}, api.ErrProof
 	}
 	if f := leaves.CheckMend(s, l, m); f != proof {
 		t.Fatal("CheckMend", s, l, m, f, proof)
